@@ -57,6 +57,43 @@ func lossy() []struct {
 	}
 }
 
+// handLosses are trees of each kind of loss, and one of all kinds, with what comes of them and the losses written out.
+func handLosses() []struct {
+	n, told api.Node
+	losses  []api.Loss
+} {
+	return []struct {
+		n, told api.Node
+		losses  []api.Loss
+	}{
+		{floatNode(0x3FF8000000000000), decNode(false, "15", -1), []api.Loss{{Kind: 1, N: 0x3FF8000000000000}}},
+		{floatNode(0x7FF0000000000000), nullNode(), []api.Loss{{Kind: 2, N: 0x7FF0000000000000}}},
+		{bytesNode(1, 255), textNode("01ff"), []api.Loss{{Kind: 3}}},
+		{tagNode(9, num(1)), num(1), []api.Loss{{Kind: 4, N: 9}}},
+		{mapNode(num(1), num(2)), arrayNode(arrayNode(num(1), num(2))), []api.Loss{{Kind: 5}}},
+		{simpleNode(0), nullNode(), []api.Loss{{Kind: 6, N: 0}}},
+		{
+			arrayNode(simpleNode(19), tagNode(7, floatNode(0xC000000000000000)), mapNode(bytesNode(16), floatNode(0xFFF8000000000001)), num(3)),
+			arrayNode(nullNode(), num(-2), arrayNode(arrayNode(textNode("10"), nullNode())), num(3)),
+			[]api.Loss{
+				{Path: []int{0}, Kind: 6, N: 19},
+				{Path: []int{1}, Kind: 4, N: 7},
+				{Path: []int{1}, Kind: 1, N: 0xC000000000000000},
+				{Path: []int{2}, Kind: 5},
+				{Path: []int{2, 0, 0}, Kind: 3},
+				{Path: []int{2, 0, 1}, Kind: 2, N: 0xFFF8000000000001},
+			},
+		},
+	}
+}
+
+// P14.1, R3: no loss is missing, whichever its kind is.
+func TestLossesByHand(t *testing.T) {
+	for _, c := range handLosses() {
+		expectTold(t, c.n, c.told, c.losses...)
+	}
+}
+
 // P14.1, P14.4: each Kind that JSON can not tell, alone and within Arrays, Maps and Tags, with its Path.
 func TestEachLoss(t *testing.T) {
 	key, one, two := textNode("k"), num(1), num(2)

@@ -55,7 +55,9 @@ func tell(n api.Node) (api.Node, []api.Loss) {
 		}
 		return n
 	}
-	return come(n, nil), losses
+	// A statement of its own: in one with the call, Go leaves open whether losses is read ahead of it.
+	told := come(n, nil)
+	return told, losses
 }
 
 // below is a path that goes on from another.
