@@ -247,6 +247,18 @@ func made(t *testing.T, most, idle int) *sess.Table {
 	return s
 }
 
+// goneEachWay is a table at tick 6 from which 1 went by time, 2 by Close and 3 by MsgClose; 4 stays.
+func goneEachWay(t *testing.T) *sess.Table {
+	t.Helper()
+	s := made(t, 4, 5)
+	begin(t, s, 0, 1)
+	begin(t, s, 3, 2, 3, 4)
+	expectTick(t, s, 6, 1)
+	expectClose(t, s, 2, 6, api.OK)
+	expectHear(t, s, bye(3, 1), 6, api.OK)
+	return s
+}
+
 // hello is a MsgHello with a token (0 for a new session) and a format.
 func hello(token uint64, format int) api.Msg {
 	return api.Msg{Kind: kindHello, Token: token, Format: format}

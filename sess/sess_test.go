@@ -177,12 +177,7 @@ func TestHelloDrawOfNothing(t *testing.T) {
 
 // P20.2, R7: a token that is there, or went (by time, by Close, by MsgClose), is drawn again.
 func TestHelloDrawTwice(t *testing.T) {
-	s := made(t, 4, 5)
-	begin(t, s, 0, 1)
-	begin(t, s, 3, 2, 3, 4)
-	expectTick(t, s, 6, 1)
-	expectClose(t, s, 2, 6, api.OK)
-	expectHear(t, s, bye(3, 1), 6, api.OK)
+	s := goneEachWay(t)
 	for range 3 {
 		for _, draw := range []uint64{1, 2, 3, 4} {
 			expectReset(t, s, hello(0, api.Cbor), draw, 6, api.ErrTwice)
@@ -248,16 +243,12 @@ func TestHelloOfNone(t *testing.T) {
 		expectReset(t, s, hello(token, api.Json), 0, 0, api.ErrNone)
 	}
 	expectCount(t, s, 0)
-	begin(t, s, 0, 1)
-	begin(t, s, 3, 2, 3)
-	expectTick(t, s, 6, 1)
-	expectClose(t, s, 2, 6, api.OK)
-	expectHear(t, s, bye(3, 1), 6, api.OK)
-	for _, token := range []uint64{1, 2, 3, 4} {
+	s = goneEachWay(t)
+	for _, token := range []uint64{1, 2, 3, 5} {
 		expectReset(t, s, hello(token, api.Cbor), token, 6, api.ErrNone)
 		expectReset(t, s, hello(token, api.Cbor), 9, 6, api.ErrNone)
 	}
-	expectCount(t, s, 0)
+	expectLive(t, s, 4)
 	begin(t, s, 6, 9)
 }
 
@@ -334,12 +325,7 @@ func TestHearEpochs(t *testing.T) {
 
 // P20.3: messages of tokens that there are not, or that went, are refused, whatever their epoch.
 func TestHearOfNone(t *testing.T) {
-	s := made(t, 4, 5)
-	begin(t, s, 0, 1)
-	begin(t, s, 3, 2, 3, 4)
-	expectTick(t, s, 6, 1)
-	expectClose(t, s, 2, 6, api.OK)
-	expectHear(t, s, bye(3, 1), 6, api.OK)
+	s := goneEachWay(t)
 	for _, token := range []uint64{0, 1, 2, 3, 5, math.MaxUint64} {
 		for _, epoch := range []int{-1, 0, 1, 2, math.MaxInt, math.MinInt} {
 			expectHear(t, s, ping(token, epoch), 6, api.ErrNone)
